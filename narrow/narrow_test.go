@@ -1,6 +1,9 @@
 package narrow_test
 
 import (
+	"go/ast"
+	"go/parser"
+	"go/token"
 	"math"
 	"math/big"
 	"math/rand"
@@ -334,6 +337,51 @@ func TestToEdges(t *testing.T) {
 				t.Errorf("To(%x, %d): %x, want %x as by Nearest", c.x, m, got, c.want[0])
 			}
 		}
+	}
+}
+
+// P4.2, R4: what is too great is an infinity, or the greatest narrow float, by the way of rounding alone.
+func TestToTooGreat(t *testing.T) {
+	for x := float64(tooBig); x < math.Inf(1); x *= 1.75 {
+		for i, want := range [4]float32{inf, most, inf, most} {
+			if got := narrow.To(x, modes[i]); !same(got, want) {
+				t.Errorf("To(%x, %d): %x, want %x", x, modes[i], got, want)
+			}
+		}
+		for i, want := range [4]float32{-inf, -inf, -most, -most} {
+			if got := narrow.To(-x, modes[i]); !same(got, want) {
+				t.Errorf("To(%x, %d): %x, want %x", -x, modes[i], got, want)
+			}
+		}
+		if narrow.Fits(x) || narrow.Fits(-x) {
+			t.Errorf("%x fits", x)
+		}
+	}
+}
+
+// R4: the language leaves open what a conversion to float32 tells of a number that is too great, so there is one alone, which none comes to.
+func TestOneConversion(t *testing.T) {
+	file, err := parser.ParseFile(token.NewFileSet(), "narrow.go", nil, 0)
+	if err != nil {
+		t.Fatal(err)
+	}
+	in := map[string]int{}
+	for _, d := range file.Decls {
+		f, ok := d.(*ast.FuncDecl)
+		if !ok {
+			continue
+		}
+		ast.Inspect(f, func(n ast.Node) bool {
+			if call, ok := n.(*ast.CallExpr); ok {
+				if name, ok := call.Fun.(*ast.Ident); ok && name.Name == "float32" {
+					in[f.Name.Name]++
+				}
+			}
+			return true
+		})
+	}
+	if len(in) != 1 || in["nearest"] != 1 {
+		t.Errorf("conversions to float32, by function: %v", in)
 	}
 }
 
