@@ -153,12 +153,14 @@ func takeOff(from, by []uint64) uint64 {
 // addTimes adds x times by to to, which is as long, and tells what is carried over its end.
 func addTimes(to, x []uint64, by uint64) uint64 {
 	carry := uint64(0)
+	to = to[:len(x)] // told ahead, no place needs to be looked at again
 	for i := range len(x) {
 		high, low := bits.Mul64(x[i], by)
 		low, over := bits.Add64(low, to[i], 0)
-		high += over // what is multiplied leaves room for both
+		high, _ = bits.Add64(high, 0, over) // what is multiplied leaves room for both
 		low, over = bits.Add64(low, carry, 0)
-		to[i], carry = low, high+over
+		carry, _ = bits.Add64(high, 0, over)
+		to[i] = low
 	}
 	return carry
 }
@@ -166,12 +168,16 @@ func addTimes(to, x []uint64, by uint64) uint64 {
 // takeTimes takes x times by off from, which is longer, and tells whether 1 is lacking above its end.
 func takeTimes(from, x []uint64, by uint64) uint64 {
 	carry := uint64(0)
-	for i := range len(from) {
-		high, low := bits.Mul64(At(x, i), by)
+	beside, above := from[:len(x)], from[len(x):]
+	for i := range len(x) {
+		high, low := bits.Mul64(x[i], by)
 		low, over := bits.Add64(low, carry, 0)
-		high += over
-		from[i], over = bits.Sub64(from[i], low, 0)
-		carry = high + over
+		high, _ = bits.Add64(high, 0, over)
+		beside[i], over = bits.Sub64(beside[i], low, 0)
+		carry, _ = bits.Add64(high, 0, over)
+	}
+	for i := range len(above) {
+		above[i], carry = bits.Sub64(above[i], carry, 0)
 	}
 	return carry
 }

@@ -1,0 +1,95 @@
+package whole_test
+
+import (
+	"math"
+	"math/big"
+	"math/rand"
+	"slices"
+	"testing"
+
+	"girder/whole"
+)
+
+const ones = math.MaxUint64
+
+// value is the value of a.
+func value(a whole.Number) *big.Int {
+	v := new(big.Int)
+	for _, limb := range slices.Backward(a.Mag) {
+		v.Lsh(v, 64).Or(v, new(big.Int).SetUint64(limb))
+	}
+	if a.Neg {
+		v.Neg(v)
+	}
+	return v
+}
+
+// isNumber tells whether a is written as a number must be.
+func isNumber(a whole.Number) bool {
+	n := len(a.Mag)
+	return n == 0 && !a.Neg || n > 0 && a.Mag[n-1] != 0
+}
+
+// is fails unless got is want, written as it must be.
+func is(t *testing.T, what string, got whole.Number, want *big.Int) {
+	t.Helper()
+	if !isNumber(got) || value(got).Cmp(want) != 0 {
+		t.Fatalf("%s: %v, want %v", what, got, want)
+	}
+}
+
+// some are numbers of both signs and many lengths.
+func some(r *rand.Rand) []whole.Number {
+	var out []whole.Number
+	for _, n := range []int64{0, 1, -1, 2, -7, math.MaxInt64, math.MinInt64} {
+		out = append(out, whole.Int(n))
+	}
+	for range 60 {
+		mag := make([]uint64, r.Intn(6))
+		for i := range mag {
+			mag[i] = []uint64{0, 1, ones, 1 << 63, r.Uint64()}[r.Intn(5)]
+		}
+		a := whole.Of(r.Intn(2) == 0, mag)
+		out = append(out, a, a)
+	}
+	return out
+}
+
+func TestInt(t *testing.T) {
+	for _, n := range []int64{0, 1, -1, 5, -5, 1 << 62, math.MaxInt64, -math.MaxInt64, math.MinInt64} {
+		is(t, "Int", whole.Int(n), big.NewInt(n))
+	}
+}
+
+func TestOf(t *testing.T) {
+	for _, neg := range []bool{false, true} {
+		for _, mag := range [][]uint64{nil, {}, {0}, {0, 0}} {
+			is(t, "Of", whole.Of(neg, mag), new(big.Int))
+		}
+	}
+	is(t, "Of", whole.Of(true, []uint64{3, 0, 0}), big.NewInt(-3))
+	is(t, "Of", whole.Of(false, []uint64{0, 1, 0}), new(big.Int).Lsh(big.NewInt(1), 64))
+}
+
+func TestIsZero(t *testing.T) {
+	if !whole.IsZero(whole.Number{}) || !whole.IsZero(whole.Int(0)) || whole.IsZero(whole.Int(-1)) || whole.IsZero(whole.Int(1)) {
+		t.Error("IsZero")
+	}
+}
+
+func TestReckon(t *testing.T) {
+	numbers := some(rand.New(rand.NewSource(1)))
+	for _, a := range numbers {
+		for _, b := range numbers {
+			x, y := value(a), value(b)
+			is(t, "Sub", whole.Sub(a, b), new(big.Int).Sub(x, y))
+			product := whole.Mul(a, b)
+			is(t, "Mul", product, new(big.Int).Mul(x, y))
+			if !whole.IsZero(b) {
+				is(t, "Over", whole.Over(product, b), x)
+			}
+			is(t, "the first number", a, x)
+			is(t, "the second number", b, y)
+		}
+	}
+}
