@@ -26,23 +26,6 @@ func isSystem(a api.Dyads, b []api.Ratio) bool {
 	return true
 }
 
-// extent tells the least Exp of the dyads that are not 0, and their width.
-func extent(dyads []api.Dyad) (low, width int) {
-	high, met := 0, false
-	for i := range len(dyads) {
-		d := dyads[i]
-		if len(d.Mag) == 0 {
-			continue
-		}
-		top := limbs.Len(d.Mag) + d.Exp
-		if !met {
-			low, high, met = d.Exp, top, true
-		}
-		low, high = min(low, d.Exp), max(high, top)
-	}
-	return low, high - low
-}
-
 // commonDen is the least whole number above 0 with which all of b are whole.
 func commonDen(b []api.Ratio) whole.Number {
 	den := limbs.Put(0, 1)
@@ -59,8 +42,7 @@ func systemRows(a api.Dyads, low int, b []api.Ratio, den whole.Number) [][]whole
 	for i := range a.Rows {
 		rows[i] = make([]whole.Number, a.Cols+1)
 		for j := range a.Cols {
-			d := a.Data[i*a.Cols+j]
-			rows[i][j] = whole.Of(d.Neg, limbs.Shift(d.Mag, d.Exp-low))
+			rows[i][j] = whole.Scaled(a.Data[i*a.Cols+j], low)
 		}
 		times := whole.Over(den, whole.Of(false, b[i].Den))
 		rows[i][a.Cols] = whole.Mul(whole.Of(b[i].Neg, b[i].Num), times)

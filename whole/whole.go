@@ -2,6 +2,7 @@
 package whole
 
 import (
+	"girder/api"
 	"girder/limbs"
 )
 
@@ -26,9 +27,38 @@ func Of(neg bool, mag []uint64) Number {
 	return Number{Neg: neg && len(mag) > 0, Mag: mag}
 }
 
+// Scaled is d, right or not, over 2 to the power low, which goes into it.
+func Scaled(d api.Dyad, low int) Number {
+	return Of(d.Neg, limbs.Shift(d.Mag, d.Exp-low))
+}
+
+// Extent tells of dyads, right or not, the power of two of their lowest bit, and how many bits there are from that one up to the highest one; 0 and 0, if all are 0.
+func Extent(dyads []api.Dyad) (low, width int) {
+	high, met := 0, false
+	for i := range len(dyads) {
+		d := dyads[i]
+		top := limbs.Len(d.Mag)
+		if top == 0 {
+			continue
+		}
+		top += d.Exp
+		bottom := limbs.Zeros(d.Mag) + d.Exp
+		if !met {
+			low, high, met = bottom, top, true
+		}
+		low, high = min(low, bottom), max(high, top)
+	}
+	return low, high - low
+}
+
 // IsZero tells whether a is 0.
 func IsZero(a Number) bool {
 	return len(a.Mag) == 0
+}
+
+// Add is a and b.
+func Add(a, b Number) Number {
+	return Sub(a, Minus(b))
 }
 
 // Sub is a less b.
@@ -40,6 +70,11 @@ func Sub(a, b Number) Number {
 		return Of(!a.Neg, limbs.Sub(b.Mag, a.Mag))
 	}
 	return Of(a.Neg, limbs.Sub(a.Mag, b.Mag))
+}
+
+// Minus is 0 less a.
+func Minus(a Number) Number {
+	return Of(!a.Neg, a.Mag)
 }
 
 // Mul is a times b.

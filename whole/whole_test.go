@@ -7,6 +7,7 @@ import (
 	"slices"
 	"testing"
 
+	"girder/api"
 	"girder/whole"
 )
 
@@ -82,6 +83,8 @@ func TestReckon(t *testing.T) {
 	for _, a := range numbers {
 		for _, b := range numbers {
 			x, y := value(a), value(b)
+			is(t, "Minus", whole.Minus(a), new(big.Int).Neg(x))
+			is(t, "Add", whole.Add(a, b), new(big.Int).Add(x, y))
 			is(t, "Sub", whole.Sub(a, b), new(big.Int).Sub(x, y))
 			product := whole.Mul(a, b)
 			is(t, "Mul", product, new(big.Int).Mul(x, y))
@@ -90,6 +93,46 @@ func TestReckon(t *testing.T) {
 			}
 			is(t, "the first number", a, x)
 			is(t, "the second number", b, y)
+		}
+	}
+}
+
+// A dyad may have noughts at either end, and any Exp that does not wrap.
+func TestScaled(t *testing.T) {
+	for _, x := range []struct {
+		d    api.Dyad
+		low  int
+		want *big.Int
+	}{
+		{api.Dyad{}, 0, new(big.Int)},
+		{api.Dyad{Neg: true, Mag: []uint64{0}, Exp: 9}, -5, new(big.Int)},
+		{api.Dyad{Mag: []uint64{3}, Exp: 2}, 2, big.NewInt(3)},
+		{api.Dyad{Neg: true, Mag: []uint64{3}, Exp: 2}, -1, big.NewInt(-24)},
+		{api.Dyad{Mag: []uint64{24, 0}, Exp: -7}, -5, big.NewInt(6)},
+		{api.Dyad{Mag: []uint64{5}, Exp: -70}, -134, new(big.Int).Lsh(big.NewInt(5), 64)},
+		{api.Dyad{Neg: true, Mag: []uint64{0, 6}, Exp: 100000}, 100064, big.NewInt(-6)},
+	} {
+		is(t, "Scaled", whole.Scaled(x.d, x.low), x.want)
+	}
+}
+
+func TestExtent(t *testing.T) {
+	none := api.Dyad{}
+	for _, x := range []struct {
+		dyads      []api.Dyad
+		low, width int
+	}{
+		{nil, 0, 0},
+		{[]api.Dyad{none, {Mag: []uint64{0}, Exp: 9}, {Mag: []uint64{0, 0}, Exp: -9}}, 0, 0},
+		{[]api.Dyad{{Mag: []uint64{1}, Exp: 60000}}, 60000, 1},
+		{[]api.Dyad{none, {Neg: true, Mag: []uint64{5}, Exp: -3}, none}, -3, 3},
+		{[]api.Dyad{{Mag: []uint64{12}, Exp: 4}}, 6, 2},
+		{[]api.Dyad{{Mag: []uint64{0, 4, 0}, Exp: -10}}, 56, 1},
+		{[]api.Dyad{{Mag: []uint64{1}, Exp: -7}, {Neg: true, Mag: []uint64{1}, Exp: 7}, {Mag: []uint64{1, 1}, Exp: -3}}, -7, 69},
+		{[]api.Dyad{{Mag: []uint64{1}, Exp: 7}, {Mag: []uint64{3}, Exp: 5}, {Mag: []uint64{1}, Exp: 6}}, 5, 3},
+	} {
+		if low, width := whole.Extent(x.dyads); low != x.low || width != x.width {
+			t.Error(x.dyads, low, width)
 		}
 	}
 }
