@@ -1,4 +1,4 @@
-// Package whole holds whole numbers of any length and either sign, upon limbs. What comes in is never changed, but what goes out may share its limbs: a number's limbs are read alone.
+// Package whole holds whole numbers of any length and either sign, upon limbs, and what dyads come to that no limit of right ones holds for. What comes in is never changed, but what goes out may share its limbs: a number's limbs are read alone.
 package whole
 
 import (
@@ -49,6 +49,19 @@ func Extent(dyads []api.Dyad) (low, width int) {
 		low, high = min(low, bottom), max(high, top)
 	}
 	return low, high - low
+}
+
+// Less is a less b, dyads that need not be right; no more need what is told be, however long it is.
+func Less(a, b api.Dyad) api.Dyad {
+	low, _ := Extent([]api.Dyad{a, b})
+	left := Sub(Scaled(a, low), Scaled(b, low))
+	return api.Dyad{Neg: left.Neg, Mag: left.Mag, Exp: low}
+}
+
+// Times is a times b, dyads that need not be right; no more need what is told be, however long it is.
+func Times(a, b api.Dyad) api.Dyad {
+	product := Mul(Of(a.Neg, a.Mag), Of(b.Neg, b.Mag))
+	return api.Dyad{Neg: product.Neg, Mag: product.Mag, Exp: a.Exp + b.Exp}
 }
 
 // IsZero tells whether a is 0.

@@ -116,6 +116,36 @@ func TestScaled(t *testing.T) {
 	}
 }
 
+// Dyads that need not be right: noughts at either end, of either sign, any Exp, more limbs than a right one has.
+func TestLessAndTimes(t *testing.T) {
+	r := rand.New(rand.NewSource(2))
+	dyads := []api.Dyad{{}, {Mag: []uint64{}}, {Neg: true, Mag: []uint64{0, 0}, Exp: 5}, {Neg: true, Exp: -3}, {Mag: []uint64{1}}, {Neg: true, Mag: []uint64{1}}, {Mag: []uint64{2}, Exp: -1}, {Mag: []uint64{1}, Exp: 3000}}
+	for _, a := range some(r) {
+		dyads = append(dyads, api.Dyad{Neg: a.Neg, Mag: append([]uint64{0}, append(a.Mag, 0)...), Exp: r.Intn(400) - 200})
+	}
+	dyads = append(dyads, api.Dyad{Mag: slices.Repeat([]uint64{ones}, api.MaxLimbs+50), Exp: -200})
+	const low = -250
+	valueOf := func(d api.Dyad, low int) *big.Int { return value(whole.Scaled(d, low)) }
+	for _, a := range dyads {
+		for _, b := range dyads {
+			x, y := valueOf(a, low), valueOf(b, low)
+			less, times := whole.Less(a, b), whole.Times(a, b)
+			for _, d := range []api.Dyad{less, times} {
+				is(t, "the limbs", whole.Number{Neg: d.Neg, Mag: d.Mag}, value(whole.Of(d.Neg, d.Mag)))
+			}
+			if got := valueOf(less, low); got.Cmp(new(big.Int).Sub(x, y)) != 0 {
+				t.Fatal("Less", a, b, less)
+			}
+			if got := valueOf(times, 2*low); got.Cmp(new(big.Int).Mul(x, y)) != 0 {
+				t.Fatal("Times", a, b, times)
+			}
+			if valueOf(a, low).Cmp(x) != 0 || valueOf(b, low).Cmp(y) != 0 {
+				t.Fatal("changed", a, b)
+			}
+		}
+	}
+}
+
 func TestExtent(t *testing.T) {
 	none := api.Dyad{}
 	for _, x := range []struct {
