@@ -26,16 +26,6 @@ func isSystem(a api.Dyads, b []api.Ratio) bool {
 	return true
 }
 
-// commonDen is the least whole number above 0 with which all of b are whole.
-func commonDen(b []api.Ratio) whole.Number {
-	den := limbs.Put(0, 1)
-	for i := range len(b) {
-		more, _ := limbs.Div(b[i].Den, limbs.Common(b[i].Den, den, 0))
-		den = limbs.Mul(den, more)
-	}
-	return whole.Of(false, den)
-}
-
 // systemRows is the system in whole numbers, a row for each of a's, with b's number behind it: a times 2 to the power -low, b times den.
 func systemRows(a api.Dyads, low int, b []api.Ratio, den whole.Number) [][]whole.Number {
 	rows := make([][]whole.Number, a.Rows)
@@ -44,8 +34,7 @@ func systemRows(a api.Dyads, low int, b []api.Ratio, den whole.Number) [][]whole
 		for j := range a.Cols {
 			rows[i][j] = whole.Scaled(a.Data[i*a.Cols+j], low)
 		}
-		times := whole.Over(den, whole.Of(false, b[i].Den))
-		rows[i][a.Cols] = whole.Mul(whole.Of(b[i].Neg, b[i].Num), times)
+		rows[i][a.Cols] = whole.TimesDen(b[i], den)
 	}
 	return rows
 }

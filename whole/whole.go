@@ -1,4 +1,4 @@
-// Package whole holds whole numbers of any length and either sign, upon limbs, and what dyads come to that no limit of right ones holds for. What comes in is never changed, but what goes out may share its limbs: a number's limbs are read alone.
+// Package whole holds whole numbers of any length and either sign, upon limbs, and what dyads and ratios come to that no limit of right ones holds for. What comes in is never changed, but what goes out may share its limbs: a number's limbs are read alone.
 package whole
 
 import (
@@ -62,6 +62,21 @@ func Less(a, b api.Dyad) api.Dyad {
 func Times(a, b api.Dyad) api.Dyad {
 	product := Mul(Of(a.Neg, a.Mag), Of(b.Neg, b.Mag))
 	return api.Dyad{Neg: product.Neg, Mag: product.Mag, Exp: a.Exp + b.Exp}
+}
+
+// CommonDen is the least whole number above 0 with which all of the ratios, right ones, become whole.
+func CommonDen(ratios []api.Ratio) Number {
+	den := limbs.Put(0, 1)
+	for i := range len(ratios) {
+		more, _ := limbs.Div(ratios[i].Den, limbs.Common(ratios[i].Den, den, 0))
+		den = limbs.Mul(den, more)
+	}
+	return Of(false, den)
+}
+
+// TimesDen is r, a right ratio, times den, with which it becomes whole.
+func TimesDen(r api.Ratio, den Number) Number {
+	return Mul(Of(r.Neg, r.Num), Over(den, Of(false, r.Den)))
 }
 
 // IsZero tells whether a is 0.

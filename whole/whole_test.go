@@ -166,3 +166,39 @@ func TestExtent(t *testing.T) {
 		}
 	}
 }
+
+// Ratios whose Dens are alike, have divisors in common, have none, and are longer than limbs.
+func TestCommonDen(t *testing.T) {
+	ratioOf := func(num, den int64) api.Ratio {
+		n := whole.Int(num)
+		return api.Ratio{Neg: n.Neg, Num: n.Mag, Den: whole.Int(den).Mag}
+	}
+	for _, x := range []struct {
+		ratios []api.Ratio
+		want   int64
+	}{
+		{nil, 1},
+		{[]api.Ratio{ratioOf(0, 1)}, 1},
+		{[]api.Ratio{ratioOf(-7, 12)}, 12},
+		{[]api.Ratio{ratioOf(1, 4), ratioOf(0, 1), ratioOf(5, 6), ratioOf(-3, 4)}, 12},
+		{[]api.Ratio{ratioOf(1, 7), ratioOf(1, 5), ratioOf(1, 35)}, 35},
+		{[]api.Ratio{ratioOf(1, 1<<40), ratioOf(3, 1<<20)}, 1 << 40},
+	} {
+		den := whole.CommonDen(x.ratios)
+		is(t, "CommonDen", den, big.NewInt(x.want))
+		for _, r := range x.ratios {
+			of := new(big.Rat).SetFrac(value(whole.Of(r.Neg, r.Num)), value(whole.Of(false, r.Den)))
+			is(t, "TimesDen", whole.TimesDen(r, den), of.Mul(of, new(big.Rat).SetInt64(x.want)).Num())
+		}
+	}
+	third := slices.Repeat([]uint64{ones}, api.MaxLimbs) // 3 divides it, 2 does not
+	two := append(make([]uint64, api.MaxLimbs-1), 2)
+	long := []api.Ratio{{Num: []uint64{1}, Den: third}, {Neg: true, Num: []uint64{5}, Den: two}, {Num: []uint64{1}, Den: []uint64{3}}}
+	den := whole.CommonDen(long)
+	all := new(big.Int).Mul(value(whole.Of(false, third)), value(whole.Of(false, two)))
+	is(t, "CommonDen of long ones", den, all)
+	is(t, "TimesDen of the first", whole.TimesDen(long[0], den), value(whole.Of(false, two)))
+	fives := new(big.Int).Mul(big.NewInt(-5), value(whole.Of(false, third)))
+	is(t, "TimesDen of the second", whole.TimesDen(long[1], den), fives)
+	is(t, "TimesDen of the third", whole.TimesDen(long[2], den), new(big.Int).Quo(all, big.NewInt(3)))
+}
